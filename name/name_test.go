@@ -4,6 +4,7 @@ import (
 	"slices"
 	"strings"
 	"testing"
+	"unsafe"
 
 	"glacis/name"
 )
@@ -418,6 +419,28 @@ func TestPartsNew(t *testing.T) {
 	}
 	if longer := append(second[:cap(second)], "c"); slices.Contains(longer, "z") {
 		t.Error("two answers share the room behind them")
+	}
+}
+
+// within tells whether s lies in the memory of whole.
+func within(whole, s string) bool {
+	from, at := uintptr(unsafe.Pointer(unsafe.StringData(whole))), uintptr(unsafe.Pointer(unsafe.StringData(s)))
+	return at >= from && at < from+uintptr(len(whole))
+}
+
+// R3: neither the parts nor a way lie in what was handed in.
+func TestTextsNew(t *testing.T) {
+	path := strings.Repeat("/sixsix", 8)
+	l, _ := name.Parts(path, false)
+	for _, s := range l {
+		if within(path, s) {
+			t.Errorf("%q lies in the way that was handed in", s)
+		}
+	}
+	for n := 1; n <= len(l); n++ {
+		if within(name.Path(l[:n]...), l[0]) {
+			t.Errorf("the way of %d names shares their memory", n)
+		}
 	}
 }
 
